@@ -128,9 +128,9 @@ func TestInCircleWithPointsOnOneCircle(t *testing.T) {
 	}
 }
 
-func TestInCircleByAHair(t *testing.T) {
-	// The document's sum is below 200 here, either way, though its parts are so great that floats would lose it.
-	for _, l := range [][]api.Point{
+// circlesByAHair: four points each, of which the document's sum is below 200, either way, though its parts are so great that floats would lose it.
+func circlesByAHair() [][]api.Point {
+	return [][]api.Point{
 		pts(-2000, 3235, 1881, -4060, -1764, 4677, 6695, -5057),
 		pts(7326, -4690, 7204, -2916, 5748, -3331, 5776, -3283),
 		pts(5356, -3075, 1578, 2771, -331, 2977, -4359, -5363),
@@ -143,7 +143,11 @@ func TestInCircleByAHair(t *testing.T) {
 		pts(-5814, 3973, 3870, 3481, 2611, -6399, -7034, -4200),
 		pts(-5061, -7486, 2969, -7174, -5050, -7484, 825, -7035),
 		pts(-5849, 7630, 1081, 7535, -5029, -312, 2531, 4617),
-	} {
+	}
+}
+
+func TestInCircleByAHair(t *testing.T) {
+	for _, l := range circlesByAHair() {
 		permutations(func(i, j, k, _ int) { checkCircle(t, l[i], l[j], l[k], l[3]) })
 		if n, _ := trigon.InCircle(l[0], l[1], l[2], l[3]); n == 0 {
 			t.Errorf("P4: InCircle(%v) = 0, but they are not on one circle", l)

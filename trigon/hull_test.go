@@ -3,7 +3,6 @@ package trigon_test
 import (
 	"math/rand"
 	"slices"
-	"sync"
 	"testing"
 
 	"trigon/api"
@@ -130,12 +129,7 @@ func TestHullOfSomePoints(t *testing.T) {
 }
 
 func TestHullOfPointsOnOneLine(t *testing.T) {
-	r := rand.New(rand.NewSource(10))
-	for _, way := range pts(1, 0, 0, 1, 1, 1, 1, -1, 3, 1, 1, -3, 0, -1, -1, 0, 133, 131) {
-		var l []api.Point
-		for _, f := range r.Perm(api.MaxPoints) {
-			l = append(l, pt(f*way.X, f*way.Y))
-		}
+	onOneLineEach(func(l []api.Point, way api.Point) {
 		ends := []int{slices.Index(l, pt(0, 0)), slices.Index(l, pt(59*way.X, 59*way.Y))}
 		if way.X < 0 || way.X == 0 && way.Y < 0 {
 			slices.Reverse(ends)
@@ -143,7 +137,7 @@ func TestHullOfPointsOnOneLine(t *testing.T) {
 		if got, e := trigon.Hull(l); !slices.Equal(got, ends) || e != api.OK {
 			t.Errorf("P5: Hull(%v) = %v, %d, want %v, 0", l, got, e, ends)
 		}
-	}
+	})
 }
 
 // manyRound: as many points as there may be, all of them corners, in the order in which Hull tells them.
@@ -173,14 +167,18 @@ func TestHullOfManyCorners(t *testing.T) {
 	}
 }
 
+// wantError: of Hull and, for its errors are the same, of Triangulate.
 func wantError(t *testing.T, l []api.Point, want api.Errno) {
 	t.Helper()
 	if got, e := trigon.Hull(l); len(got) != 0 || e != want {
 		t.Fatalf("P5: Hull(%v) = %v, %d, want none, %d", l, got, e, want)
 	}
+	if got, e := trigon.Triangulate(l); len(got) != 0 || e != want {
+		t.Fatalf("P6: Triangulate(%v) = %v, %d, want none, %d", l, got, e, want)
+	}
 }
 
-func TestHullOfTooMany(t *testing.T) {
+func TestErrorsOfTooMany(t *testing.T) {
 	l := append(manyRound(), pt(10, 0), pt(11, 0))
 	wantError(t, l[:61], api.ErrMany)
 	wantError(t, l, api.ErrMany)
@@ -195,7 +193,7 @@ func TestHullOfTooMany(t *testing.T) {
 	wantError(t, l[:60], api.ErrFar)
 }
 
-func TestHullOfPointsTooFarOut(t *testing.T) {
+func TestErrorsOfPointsTooFarOut(t *testing.T) {
 	isFar := func(l []api.Point) { wantError(t, l, api.ErrFar) }
 	withFar(pts(0, 0), isFar)
 	withFar(pts(0, 0, 4, 0, 0, 3, 1, 1), isFar)
@@ -210,7 +208,7 @@ func TestHullOfPointsTooFarOut(t *testing.T) {
 	checkHull(t, pts(8000, 8000, -8000, 8000, 8000, -8000, -8000, -8000))
 }
 
-func TestHullOfAPointTwice(t *testing.T) {
+func TestErrorsOfAPointTwice(t *testing.T) {
 	wantError(t, pts(0, 0, 0, 0), api.ErrTwice)
 	wantError(t, pts(8000, 1, 2, 3, 8000, 1), api.ErrTwice)
 	wantError(t, make([]api.Point, 60), api.ErrTwice)
@@ -227,25 +225,6 @@ func TestHullOfAPointTwice(t *testing.T) {
 	checkHull(t, pts(1, 2, 2, 1, 1, -2, -1, 2, -2, 1))
 }
 
-func TestHullLeavesWhatIsHandedIn(t *testing.T) {
-	lists := [][]api.Point{
-		nil, pts(1, 1), pts(3, 3, 1, 1, 2, 2), pts(9, 0, 0, 0, 4, 4, 0, 9, 1, 1), manyRound(),
-		pts(5, 5, 1, 1, 5, 5), pts(9000, 0, 1, 1, 0, 0), append(manyRound(), pt(10, 0)),
-	}
-	for _, l := range lists {
-		spare := pts(77, 77, -9, -9, 5, 4)
-		in := append(slices.Clone(l), spare...)
-		got, _ := trigon.Hull(in[:len(l)])
-		if !slices.Equal(in[:len(l)], l) || !slices.Equal(in[len(l):], spare) {
-			t.Errorf("P2: Hull of %v and spare room left %v", l, in)
-		}
-		tight, _ := trigon.Hull(slices.Clip(slices.Clone(l)))
-		if !slices.Equal(got, tight) {
-			t.Errorf("P2: Hull(%v) = %v with spare room, %v without", l, got, tight)
-		}
-	}
-}
-
 func TestHullKeepsNothing(t *testing.T) {
 	l := pts(0, 0, 4, 0, 0, 4, 1, 1)
 	got, _ := trigon.Hull(l)
@@ -260,42 +239,4 @@ func TestHullKeepsNothing(t *testing.T) {
 	if got, e := trigon.Hull(l); !slices.Equal(got, []int{1, 2, 0, 3}) || e != api.OK {
 		t.Errorf("P2: Hull(%v) behind an error = %v, %d", l, got, e)
 	}
-}
-
-func TestHullGivesNewMemory(t *testing.T) {
-	for _, l := range [][]api.Point{nil, pts(1, 1), pts(1, 1, 0, 0), pts(0, 0, 4, 0, 0, 4, 1, 1), manyRound()} {
-		first, _ := trigon.Hull(l)
-		second, _ := trigon.Hull(l)
-		want := slices.Clone(second)
-		spare := slices.Clone(second[:cap(second)])
-		first = first[:cap(first)]
-		for i := range first {
-			first[i] = -5
-		}
-		third, _ := trigon.Hull(l)
-		if !slices.Equal(second[:cap(second)], spare) || !slices.Equal(third, want) {
-			t.Errorf("P2: Hull(%v): writing into one answer changed another: %v, %v, want %v", l, second, third, want)
-		}
-		if slices.ContainsFunc(first, func(n int) bool { return n != -5 }) {
-			t.Errorf("P2: Hull(%v): a later call wrote into an earlier answer or its spare room: %v", l, first)
-		}
-	}
-}
-
-func TestCallsAtTheSameTime(t *testing.T) {
-	var group sync.WaitGroup
-	for n := range 8 {
-		group.Go(func() {
-			l := manyRound()[:20+n]
-			want, _ := trigon.Hull(l)
-			want = slices.Clone(want)
-			for range 200 {
-				if got, e := trigon.Hull(l); !slices.Equal(got, want) || e != api.OK {
-					t.Errorf("P2: Hull(%v) = %v, %d, want %v, 0", l, got, e, want)
-					return
-				}
-			}
-		})
-	}
-	group.Wait()
 }

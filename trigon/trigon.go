@@ -4,6 +4,7 @@ package trigon
 import (
 	"trigon/api"
 	"trigon/hull"
+	"trigon/join"
 	"trigon/plane"
 )
 
@@ -34,7 +35,12 @@ func Hull(l []api.Point) ([]int, api.Errno) {
 }
 
 // Triangulate joins points to triangles (P6).
-func Triangulate(l []api.Point) ([]api.Tri, api.Errno) { return nil, api.OK }
+func Triangulate(l []api.Point) ([]api.Tri, api.Errno) {
+	if e := plane.Fault(l); e != api.OK {
+		return nil, e
+	}
+	return join.Triangles(plane.Order(l), plane.AskOf(l)), api.OK
+}
 
 // Mesh is points that come and go, joined to triangles.
 type Mesh struct{}
