@@ -34,6 +34,11 @@ func (s step) cross(t step) int64 { return s.x*t.y - s.y*t.x }
 
 func (s step) square() int64 { return s.x*s.x + s.y*s.y }
 
+// Apart gives the square of the distance between two points, for that is a whole number. Neither may be too far out.
+func Apart(a, b api.Point) int64 {
+	return stepFrom(a, b).square()
+}
+
 func side(a, b, c api.Point) int {
 	return sign(stepFrom(a, b).cross(stepFrom(a, c)))
 }

@@ -73,3 +73,19 @@ func TestOrder(t *testing.T) {
 		t.Errorf("order: %v", got)
 	}
 }
+
+func TestApart(t *testing.T) {
+	for _, c := range []struct {
+		a, b api.Point
+		want int64
+	}{
+		{api.Point{X: 3, Y: -4}, api.Point{X: 3, Y: -4}, 0},
+		{api.Point{}, api.Point{X: 3, Y: -4}, 25},
+		{api.Point{X: -1, Y: 2}, api.Point{X: 1, Y: 1}, 5},
+		{api.Point{X: -8000, Y: -8000}, api.Point{X: 8000, Y: 8000}, 512000000},
+	} {
+		if got, back := plane.Apart(c.a, c.b), plane.Apart(c.b, c.a); got != c.want || back != c.want {
+			t.Errorf("Apart(%v, %v) = %d, turned about %d, want %d", c.a, c.b, got, back, c.want)
+		}
+	}
+}

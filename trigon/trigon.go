@@ -5,6 +5,7 @@ import (
 	"trigon/api"
 	"trigon/hull"
 	"trigon/join"
+	"trigon/mesh"
 	"trigon/plane"
 )
 
@@ -43,25 +44,27 @@ func Triangulate(l []api.Point) ([]api.Tri, api.Errno) {
 }
 
 // Mesh is points that come and go, joined to triangles.
-type Mesh struct{}
+type Mesh struct {
+	points mesh.Points
+}
 
 // NewMesh makes one without points (P7).
-func NewMesh() *Mesh { return nil }
+func NewMesh() *Mesh { return &Mesh{} }
 
 // Insert adds a point (P7).
-func (m *Mesh) Insert(p api.Point) (int, api.Errno) { return 0, api.OK }
+func (m *Mesh) Insert(p api.Point) (int, api.Errno) { return m.points.Insert(p) }
 
 // Remove takes a point away (P7).
-func (m *Mesh) Remove(n int) api.Errno { return api.OK }
+func (m *Mesh) Remove(n int) api.Errno { return m.points.Remove(n) }
 
 // Triangles tells the triangles (P8).
-func (m *Mesh) Triangles() []api.Tri { return nil }
+func (m *Mesh) Triangles() []api.Tri { return m.points.Triangles() }
 
 // Locate tells where a point lies (P9).
-func (m *Mesh) Locate(p api.Point) (api.Place, api.Errno) { return api.Place{}, api.OK }
+func (m *Mesh) Locate(p api.Point) (api.Place, api.Errno) { return m.points.Locate(p) }
 
 // Nearest tells the point that is nearest (P10).
-func (m *Mesh) Nearest(p api.Point) (int, api.Errno) { return 0, api.OK }
+func (m *Mesh) Nearest(p api.Point) (int, api.Errno) { return m.points.Nearest(p) }
 
 // Write writes points and triangles as a text (P11).
 func Write(l []api.Point, t []api.Tri) (string, api.Errno) { return "", api.OK }
