@@ -9,13 +9,22 @@ import (
 
 // Fault tells what is wrong with a list of points: ErrMany, ErrFar or ErrTwice, the first of them that applies.
 func Fault(l []api.Point) api.Errno {
+	if e := LimitFault(l); e != api.OK {
+		return e
+	}
+	if anyTwice(l) {
+		return api.ErrTwice
+	}
+	return api.OK
+}
+
+// LimitFault tells what is wrong with a list in which points may be the same: ErrMany or ErrFar.
+func LimitFault(l []api.Point) api.Errno {
 	switch {
 	case len(l) > api.MaxPoints:
 		return api.ErrMany
 	case AnyFar(l...):
 		return api.ErrFar
-	case anyTwice(l):
-		return api.ErrTwice
 	}
 	return api.OK
 }

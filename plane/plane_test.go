@@ -67,6 +67,21 @@ func TestFaultTellsTheFirstThatApplies(t *testing.T) {
 	}
 }
 
+func TestLimitFaultTakesTheSamePoints(t *testing.T) {
+	same := make([]api.Point, api.MaxPoints)
+	far := api.Point{Y: -api.MaxCoord - 1}
+	for _, c := range []struct {
+		l    []api.Point
+		want api.Errno
+	}{
+		{nil, api.OK}, {same, api.OK}, {append(slices.Clone(same[1:]), far), api.ErrFar}, {append(slices.Clone(same), far), api.ErrMany},
+	} {
+		if got := plane.LimitFault(c.l); got != c.want {
+			t.Errorf("LimitFault(%v) = %d, want %d", c.l, got, c.want)
+		}
+	}
+}
+
 func TestOrder(t *testing.T) {
 	l := []api.Point{{X: 1, Y: 0}, {X: 0, Y: 5}, {X: -3, Y: 9}, {X: 0, Y: -5}, {X: 0, Y: 0}}
 	if got := plane.Order(l); !slices.Equal(got, []int{2, 3, 4, 1, 0}) {

@@ -7,6 +7,7 @@ import (
 	"trigon/join"
 	"trigon/mesh"
 	"trigon/plane"
+	"trigon/text"
 )
 
 // Orient tells on which side of two points a third one lies (P3).
@@ -67,7 +68,18 @@ func (m *Mesh) Locate(p api.Point) (api.Place, api.Errno) { return m.points.Loca
 func (m *Mesh) Nearest(p api.Point) (int, api.Errno) { return m.points.Nearest(p) }
 
 // Write writes points and triangles as a text (P11).
-func Write(l []api.Point, t []api.Tri) (string, api.Errno) { return "", api.OK }
+func Write(l []api.Point, t []api.Tri) (string, api.Errno) {
+	if e := text.Fault(l, t); e != api.OK {
+		return "", e
+	}
+	return text.Write(l, t), api.OK
+}
 
 // Read reads them (P12).
-func Read(s string) ([]api.Point, []api.Tri, api.Errno, int) { return nil, nil, api.OK, 0 }
+func Read(s string) ([]api.Point, []api.Tri, api.Errno, int) {
+	l, t, line := text.Read(s)
+	if line != 0 {
+		return nil, nil, api.ErrForm, line
+	}
+	return l, t, api.OK, 0
+}
